@@ -181,14 +181,15 @@ func (c *scanner) takesSubscript(last api.Token) bool {
 		return touching
 	case api.KSign:
 		switch last.Text {
-		case "->":
+		case "->", "$", "@":
 			return true
-		case "]", "$", "@":
+		case "]":
 			return touching
 		case "}":
 			return touching && last.Open == subscript
 		case "%", "&":
-			return touching && c.terms[len(c.terms)-1]
+			// Where an operator is expected, these refer to nothing.
+			return c.terms[len(c.terms)-1]
 		}
 	}
 	return false
