@@ -57,7 +57,7 @@ func touch(before, t api.Token, term bool) bool {
 	}
 	switch before.Text {
 	case "$", "@":
-		return true
+		return term
 	case "%", "&":
 		return term && (t.Kind == api.KVar || t.Kind == api.KSign) && strings.HasPrefix(t.Text, "$")
 	}

@@ -111,6 +111,55 @@ func TestJoinErrors(t *testing.T) {
 	}
 }
 
+// filler returns a text with interpolation that has n bytes with its quotes.
+func filler(n int) api.Token {
+	return raw(strings.Repeat("a", n-len(`""`)))
+}
+
+// P3.2: where no blank stands, and that what is expected at a token is known from the tokens before it, whatever these are.
+func TestJoinBlanks(t *testing.T) {
+	cases := []struct {
+		l    []api.Token
+		want string
+	}{
+		// A sign `$` or `@` of a term, and one where an operator is expected.
+		{[]api.Token{sign("$"), variable("$x")}, "$$x"},
+		{[]api.Token{sign("@"), number("1")}, "@1"},
+		{[]api.Token{word("return"), sign("@"), variable("$x")}, "return @$x"},
+		{[]api.Token{brace("}", 2), sign("$"), variable("$x")}, "} $ $x"},
+		{[]api.Token{brace("}", 3), sign("@"), variable("$x")}, "} @ $x"},
+		{[]api.Token{brace("}", 1), sign("@"), variable("$x")}, "} @$x"},
+		{[]api.Token{word("1 +"), sign("$"), variable("$x")}, "1 + $ $x"},
+		{[]api.Token{number("1"), sign("@"), variable("$x")}, "1 @ $x"},
+		{[]api.Token{number("1"), sign("++"), sign("$"), variable("$x")}, "1 ++ $ $x"},
+		{[]api.Token{sign("++"), sign("$"), variable("$x")}, "++ $$x"},
+		{[]api.Token{sign(")"), sign("$"), sign("$"), variable("$x")}, ") $ $$x"},
+		{[]api.Token{number("1"), sign("@"), brace("{", 2)}, "1 @{"},
+		{[]api.Token{word("$"), variable("$x")}, "$ $x"},
+	}
+	for _, c := range cases {
+		if got := joined(c.l); got != c.want {
+			t.Errorf("%+v are joined to %q, not %q", c.l, got, c.want)
+		}
+		s, e := Join(c.l)
+		k, _, e2 := Lex(c.want)
+		if e2 == api.OK && !Same(k, c.l) {
+			e2 = api.ErrArg
+		}
+		if e != e2 || e == api.OK && s != c.want {
+			t.Errorf("Join of %+v is %q (%d), not %q (%d)", c.l, s, e, c.want, e2)
+		}
+		// The longest source, and one byte more.
+		rest := api.MaxSource - len(c.want) - 1
+		if _, e := Join(append(c.l, filler(rest))); e == api.ErrLarge {
+			t.Errorf("%+v are joined to more than %q", c.l, c.want)
+		}
+		if _, e := Join(append(c.l, filler(rest+1))); e != api.ErrLarge {
+			t.Errorf("%+v are joined to less than %q", c.l, c.want)
+		}
+	}
+}
+
 // P3.2: Join does not look at places.
 func TestJoinPlaces(t *testing.T) {
 	l := []api.Token{{Kind: api.KWord, Text: "a", At: -7}, {Kind: api.KNum, Text: "1", At: 99}}
