@@ -136,6 +136,30 @@ func TestJoinBlanks(t *testing.T) {
 		{[]api.Token{sign(")"), sign("$"), sign("$"), variable("$x")}, ") $ $$x"},
 		{[]api.Token{number("1"), sign("@"), brace("{", 2)}, "1 @{"},
 		{[]api.Token{word("$"), variable("$x")}, "$ $x"},
+		// What is expected behind a `}` of any Open, and behind a token of any kind.
+		{[]api.Token{brace("}", 0), sign("%"), variable("$x")}, "} %$x"},
+		{[]api.Token{brace("}", 1), sign("%"), variable("$x")}, "} %$x"},
+		{[]api.Token{brace("}", 2), sign("%"), variable("$x")}, "} % $x"},
+		{[]api.Token{brace("}", 3), sign("&"), variable("$x")}, "} & $x"},
+		{[]api.Token{brace("}", 4), sign("&"), variable("$x")}, "} &$x"},
+		{[]api.Token{brace("}", -1), sign("&"), variable("$x")}, "} &$x"},
+		{[]api.Token{brace("}", -1), sign("++"), sign("@"), variable("$x")}, "} ++ @$x"},
+		{[]api.Token{brace("]", 7), sign("&"), variable("$x")}, "] & $x"},
+		{[]api.Token{brace(")", 1), sign("&"), variable("$x")}, ") & $x"},
+		{[]api.Token{{Kind: api.KNum, Text: "+"}, sign("%"), variable("$x")}, "+ % $x"},
+		{[]api.Token{{Kind: api.KVar, Text: "+"}, sign("%"), variable("$x")}, "+ % $x"},
+		{[]api.Token{word("+"), sign("%"), variable("$x")}, "+ % $x"},
+		{[]api.Token{word("not"), sign("%"), variable("$x")}, "not %$x"},
+		{[]api.Token{sign("not"), sign("%"), variable("$x")}, "not %$x"},
+		{[]api.Token{sign("1"), sign("%"), variable("$x")}, "1 %$x"},
+		{[]api.Token{str(""), sign("%"), variable("$x")}, "'' % $x"},
+		{[]api.Token{raw(""), sign("%"), variable("$x")}, `"" % $x`},
+		{[]api.Token{words(""), sign("%"), variable("$x")}, "qw() % $x"},
+		{[]api.Token{pattern("", ""), sign("%"), variable("$x")}, "m// % $x"},
+		{[]api.Token{subst("", "", ""), sign("%"), variable("$x")}, "s/// % $x"},
+		{[]api.Token{trans("", "", ""), sign("%"), variable("$x")}, "tr/// % $x"},
+		{[]api.Token{{Kind: -1, Text: ")"}, sign("%"), variable("$x")}, ") %$x"},
+		{[]api.Token{{Kind: 10, Text: "+"}, sign("$"), variable("$x")}, "+ $$x"},
 	}
 	for _, c := range cases {
 		if got := joined(c.l); got != c.want {
@@ -157,6 +181,31 @@ func TestJoinBlanks(t *testing.T) {
 		if _, e := Join(append(c.l, filler(rest+1))); e != api.ErrLarge {
 			t.Errorf("%+v are joined to less than %q", c.l, c.want)
 		}
+	}
+}
+
+// P3.1, P3.2: what the longest sources are refused for. Behind a variable an operator is expected, so that no quote begins there.
+func TestJoinLongest(t *testing.T) {
+	for _, open := range []int{0, 1, 4, -1} {
+		for _, x := range []string{"%", "&"} {
+			want := api.ErrArg
+			if open == block {
+				want = api.OK
+			}
+			begin := []api.Token{brace("}", open), sign(x), variable("$x")}
+			size := len("} %$x ")
+			checkJoin(t, append(slices.Clone(begin), sign("."), filler(api.MaxSource-size-2)), want)
+			checkJoin(t, append(slices.Clone(begin), sign("."), filler(api.MaxSource-size-1)), api.ErrLarge)
+			checkJoin(t, append(slices.Clone(begin), filler(api.MaxSource-size)), api.ErrSyntax)
+			checkJoin(t, append(slices.Clone(begin), filler(api.MaxSource-size+1)), api.ErrLarge)
+		}
+	}
+}
+
+func checkJoin(t *testing.T, l []api.Token, want api.Errno) {
+	t.Helper()
+	if s, e := Join(l); e != want || (s == "") == (e == api.OK) {
+		t.Errorf("Join of %.60v is %.20q (%d), not %d", l, s, e, want)
 	}
 }
 

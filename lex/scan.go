@@ -114,9 +114,11 @@ func (c *scanner) add(t api.Token) {
 	c.end = c.at
 }
 
-// expects reports whether a term is expected behind a token; before: whether one was before it.
+// expects reports whether a term is expected behind a token, which may be one that no source has; before: whether one was before it.
 func expects(t api.Token, before bool) bool {
 	switch t.Kind {
+	case api.KNum, api.KVar, api.KStr, api.KInter, api.KWords, api.KPat, api.KSubst, api.KTrans:
+		return false
 	case api.KWord:
 		return leadsTerm(t.Text)
 	case api.KSign:
@@ -126,11 +128,10 @@ func expects(t api.Token, before bool) bool {
 		case ")", "]":
 			return false
 		case "}":
-			return t.Open == block
+			return t.Open != subscript && t.Open != hash
 		}
-		return true
 	}
-	return false
+	return true
 }
 
 // leadsTerm reports whether a term is expected behind a word.
