@@ -59,7 +59,7 @@ func touch(before, t api.Token, term bool) bool {
 	case "$", "@":
 		return term
 	case "%", "&":
-		return term && (t.Kind == api.KVar || t.Kind == api.KSign) && strings.HasPrefix(t.Text, "$")
+		return term && strings.HasPrefix(spelling(t), "$")
 	}
 	return false
 }

@@ -160,6 +160,22 @@ func TestJoinBlanks(t *testing.T) {
 		{[]api.Token{trans("", "", ""), sign("%"), variable("$x")}, "tr/// % $x"},
 		{[]api.Token{{Kind: -1, Text: ")"}, sign("%"), variable("$x")}, ") %$x"},
 		{[]api.Token{{Kind: 10, Text: "+"}, sign("$"), variable("$x")}, "+ $$x"},
+		// A `$` that follows, whatever the kind of its token.
+		{[]api.Token{sign("%"), word("$x")}, "%$x"},
+		{[]api.Token{sign("&"), number("$x")}, "&$x"},
+		{[]api.Token{sign("&"), sign("$x")}, "&$x"},
+		{[]api.Token{sign("%"), {Kind: 10, Text: "$x"}}, "%$x"},
+		{[]api.Token{sign("%"), {Kind: -1, Text: "$"}}, "%$"},
+		{[]api.Token{number("1"), sign("%"), word("$x")}, "1 % $x"},
+		{[]api.Token{sign("%"), word("x$")}, "% x$"},
+		{[]api.Token{sign("%"), variable("@x")}, "% @x"},
+		{[]api.Token{sign("%"), word("")}, "% "},
+		{[]api.Token{sign("%"), str("$x")}, "% '$x'"},
+		{[]api.Token{sign("&"), raw("$x")}, `& "$x"`},
+		{[]api.Token{sign("%"), words("$x")}, "% qw($x)"},
+		{[]api.Token{sign("%"), pattern("$x", "")}, "% m/$x/"},
+		{[]api.Token{sign("%"), subst("$x", "", "")}, "% s/$x//"},
+		{[]api.Token{sign("%"), trans("$x", "", "")}, "% tr/$x//"},
 	}
 	for _, c := range cases {
 		if got := joined(c.l); got != c.want {
@@ -195,6 +211,20 @@ func TestJoinLongest(t *testing.T) {
 			begin := []api.Token{brace("}", open), sign(x), variable("$x")}
 			size := len("} %$x ")
 			checkJoin(t, append(slices.Clone(begin), sign("."), filler(api.MaxSource-size-2)), want)
+			checkJoin(t, append(slices.Clone(begin), sign("."), filler(api.MaxSource-size-1)), api.ErrLarge)
+			checkJoin(t, append(slices.Clone(begin), filler(api.MaxSource-size)), api.ErrSyntax)
+			checkJoin(t, append(slices.Clone(begin), filler(api.MaxSource-size+1)), api.ErrLarge)
+		}
+	}
+}
+
+// P3.1, P3.2: likewise with a `$x` that is no variable.
+func TestJoinLongestDollar(t *testing.T) {
+	for _, kind := range []int{api.KWord, api.KNum, api.KSign, -1, 10} {
+		for _, x := range []string{"%", "&"} {
+			begin := []api.Token{sign(x), {Kind: kind, Text: "$x"}}
+			size := len("%$x ")
+			checkJoin(t, append(slices.Clone(begin), sign("."), filler(api.MaxSource-size-2)), api.ErrArg)
 			checkJoin(t, append(slices.Clone(begin), sign("."), filler(api.MaxSource-size-1)), api.ErrLarge)
 			checkJoin(t, append(slices.Clone(begin), filler(api.MaxSource-size)), api.ErrSyntax)
 			checkJoin(t, append(slices.Clone(begin), filler(api.MaxSource-size+1)), api.ErrLarge)
