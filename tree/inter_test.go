@@ -39,6 +39,8 @@ func TestInter(t *testing.T) {
 		"$0":                   "(Str `$0`)",
 		"$@x":                  "(Join (Scalar `@`) (Str `x`))",
 		"$_a":                  "(Join (Scalar `_a`))",
+		"$a09b":                "(Join (Scalar `a09b`))",
+		"$a9::b0.":             "(Join (Scalar `a9::b0`) (Str `.`))",
 		"$A::b::c":             "(Join (Scalar `A::b::c`))",
 		"$a::":                 "(Join (Scalar `a`) (Str `::`))",
 		"$a::1":                "(Join (Scalar `a`) (Str `::1`))",

@@ -48,8 +48,8 @@ func TestValidExprs(t *testing.T) {
 		with(api.NFunc, "print"), with(api.NFunc, "push", array, x), with(api.NFunc, "split", flagged(api.NMatch, ",", "g", x), x), with(api.NFunc, "undef", table),
 		with(api.NNeg, "", x), with(api.NNot, "", x), with(api.NBin, "x", x, x), with(api.NBin, "..", x, list), with(api.NLogic, "//", x, x), with(api.NCond, "", x, x, x),
 		with(api.NAssign, "", list, x), with(api.NAssign, "", with(api.NList, "", with(api.NFunc, "undef"), list), x), with(api.NUpdate, "||=", x, list), with(api.NInc, "x--", x),
-		with(api.NMatch, "", x), flagged(api.NMatch, "a/\\\\\\.\n", "imsxg", list), flagged(api.NSubst, "a", "ig", x, str("")), with(api.NSubst, "/", x, with(api.NJoin, "", x)),
-		with(api.NTrans, "", x, str("")), flagged(api.NTrans, "\\", "/\n", x, str("cdr")),
+		with(api.NMatch, "", x), with(api.NMatch, " ~\t", x), flagged(api.NMatch, "a/\\\\\\.\n", "imsxg", list), flagged(api.NSubst, "a", "ig", x, str("")), with(api.NSubst, "/", x, with(api.NJoin, "", x)),
+		with(api.NTrans, "", x, str("")), flagged(api.NTrans, "\\", "/\n ~", x, str("cdr")),
 		with(api.NEach, "map", empty, list), with(api.NEach, "sort", empty, with(api.NList, "")), with(api.NDo, "", empty), with(api.NEval, "", empty),
 	} {
 		if e := Validate(statement(n)); e != api.OK {
