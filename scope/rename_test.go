@@ -30,8 +30,9 @@ func TestRename(t *testing.T) {
 		if want := parsed(t, c.want); e != api.OK || !slices.EqualFunc(q, want, same) {
 			t.Errorf("%q to %q: %v, error %d, want %v", c.source, c.to, q, e, want)
 		}
+		wipe(q)
 		if !slices.EqualFunc(p, parsed(t, c.source), same) {
-			t.Errorf("%q: Rename has changed its argument", c.source)
+			t.Errorf("%q: Rename has changed its argument, or its result shares memory with it", c.source)
 		}
 	}
 }
@@ -88,4 +89,12 @@ func TestRenameErrors(t *testing.T) {
 // same reports whether nodes are equal in all fields.
 func same(a, b api.Node) bool {
 	return a.Op == b.Op && a.S == b.S && a.T == b.T && a.N == b.N && slices.EqualFunc(a.L, b.L, same)
+}
+
+// wipe makes all nodes empty.
+func wipe(l []api.Node) {
+	for i := range l {
+		wipe(l[i].L)
+		l[i] = api.Node{}
+	}
 }
